@@ -213,7 +213,7 @@ func TestClimbWrong(t *testing.T) {
 
 // P8.3: what isn't a pair of the map, at its place, doesn't climb to its root.
 func TestNothingElseClimbs(t *testing.T) {
-	for n := 1; n < 20; n++ {
+	for n := 1; n < 12; n++ {
 		l := pairs(n)
 		want := root(l)
 		for i := range l {
