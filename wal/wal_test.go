@@ -541,5 +541,8 @@ func TestManyCrashes(t *testing.T) {
 		default:
 			t.Fatalf("step %d: %d", i, err)
 		}
+		if w.Used() > w.Segment() || w.Used() < len(was) {
+			t.Fatalf("step %d: %d sectors of %d, %d records", i, w.Used(), w.Segment(), len(was))
+		}
 	}
 }
