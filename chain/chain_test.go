@@ -331,6 +331,17 @@ func TestRecvFull(t *testing.T) {
 	}
 	send(t, c[1], "", 100)
 	want(t, "none left", c[1].Recv(q, bq, h), api.ErrFull)
+	d := both(t, 0, 0)
+	r := send(t, d[0], "", 100)
+	h = commit(t, d[0])
+	update(t, d, 1)
+	for range 4094 {
+		send(t, d[1], "", 100)
+	}
+	want(t, "just two left", d[1].Recv(r, prove(t, d[0], packet.Sent(r.Seq), h), h), api.OK)
+	if len(d[1].Map()) != 4096 {
+		t.Error(len(d[1].Map()))
+	}
 }
 
 // answered: a stage whose packet was received, in a block, and known to its own chain.

@@ -98,6 +98,9 @@ func TestPut(t *testing.T) {
 	if s != "\x00\x00\x00\x00\x00\x00\x01\x02\x00\x00\x00\x00\x00\x00\xff\xff" {
 		t.Errorf("place: %q", s)
 	}
+	if s := written(t, func(w *wire.Writer) { note.PutPlace(w, api.Place{}) }); s != strings.Repeat("\x00", 16) {
+		t.Errorf("zero place: %q", s)
+	}
 	for _, s := range []string{
 		written(t, func(w *wire.Writer) { note.PutNotes(w, nil) }),
 		written(t, func(w *wire.Writer) { note.PutItems(w, []api.Item{}) }),

@@ -206,6 +206,25 @@ func TestPlanExample(t *testing.T) {
 	}
 }
 
+// P19.1: a higher height that is known is no reason to leave the update away; so is none at height 0.
+func TestPlanUpdates(t *testing.T) {
+	c := both(t, 5, 0)
+	p, q := send(t, c[0], 100), send(t, c[1], 100)
+	commit(t, c[0])
+	must(t, c[1].Update(7, strings.Repeat("r", 32)))
+	must(t, c[1].Update(5, strings.Repeat("r", 32)))
+	plan := relay.Plan([]api.Item{item(p), item(q)}, c, 9)
+	if len(plan[1]) != 2 || plan[1][0] != (api.Message{Kind: api.MsgUpdate, To: 1, Height: 6}) || len(plan[0]) != 0 {
+		t.Errorf("%+v", plan)
+	}
+	c = both(t, 5, 0)
+	p = send(t, c[0], 1)
+	plan = relay.Plan([]api.Item{item(p)}, c, 9)
+	if len(plan[0]) != 2 || plan[0][0] != (api.Message{Kind: api.MsgUpdate, To: 0}) || plan[0][1].Kind != api.MsgTimeout {
+		t.Errorf("%+v", plan)
+	}
+}
+
 // mixed: chains whose packets wait for all kinds of things.
 func mixed(t *testing.T) ([2]*chain.Chain, []api.Item) {
 	t.Helper()

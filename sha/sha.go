@@ -106,23 +106,24 @@ func (h *state) digest() string {
 
 // mix puts the full block into the words.
 func (h *state) mix() {
-	w := schedule(h.block)
-	v := h.words
-	for t := range 64 {
-		a, e := v[0], v[4]
-		big := turn(e, 6) ^ turn(e, 11) ^ turn(e, 25)
-		t1 := v[7] + big + (e&v[5] ^ ^e&v[6]) + roots[t] + w[t]
-		big = turn(a, 2) ^ turn(a, 13) ^ turn(a, 22)
-		t2 := big + (a&v[1] ^ a&v[2] ^ v[1]&v[2])
-		v = [8]uint32{t1 + t2, a, v[1], v[2], v[3] + t1, e, v[5], v[6]}
+	w := schedule(&h.block)
+	a, b, c, d := h.words[0], h.words[1], h.words[2], h.words[3]
+	e, f, g, last := h.words[4], h.words[5], h.words[6], h.words[7]
+	for t := range w {
+		s1 := turn(e, 6) ^ turn(e, 11) ^ turn(e, 25)
+		t1 := last + s1 + (e&f ^ ^e&g) + roots[t] + w[t]
+		s0 := turn(a, 2) ^ turn(a, 13) ^ turn(a, 22)
+		t2 := s0 + (a&b ^ a&c ^ b&c)
+		last, g, f, e = g, f, e, d+t1
+		d, c, b, a = c, b, a, t1+t2
 	}
-	for i := range v {
-		h.words[i] += v[i]
+	for i, x := range [8]uint32{a, b, c, d, e, f, g, last} {
+		h.words[i] += x
 	}
 }
 
 // schedule: W0 to W63 of a block.
-func schedule(block [size]byte) [64]uint32 {
+func schedule(block *[size]byte) [64]uint32 {
 	var w [64]uint32
 	for t := range 16 {
 		b := block[4*t : 4*t+4]
