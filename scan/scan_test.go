@@ -132,24 +132,6 @@ func (k kept) Log(at api.Place, most int) ([]api.Note, api.Place) {
 	return k[from:to], api.Place{Height: at.Height, Index: to}
 }
 
-// lavish is a log that tells all, whatever it is asked for.
-type lavish []api.Note
-
-func (v lavish) Log(at api.Place, most int) ([]api.Note, api.Place) {
-	return v, api.Place{Height: at.Height, Index: at.Index + most}
-}
-
-// P16.1: no more than most are taken, whatever the log tells.
-func TestNextOfALavishLog(t *testing.T) {
-	for most := -1; most < 4; most++ {
-		n := max(most, 0)
-		l, at := scan.Next(lavish(sent(1, 2, 3)), api.Place{}, most, fresh(t, 9))
-		if !slices.Equal(l, sent(1, 2, 3)[:n]) || at != (api.Place{Index: n}) {
-			t.Errorf("%d: %v, %v", most, l, at)
-		}
-	}
-}
-
 // What is taken is new memory.
 func TestNextIsNew(t *testing.T) {
 	log := kept(sent(1, 2, 3))
